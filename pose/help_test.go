@@ -231,7 +231,7 @@ func world(m machine.Machine, p pose.Pose, body int, point exact.Point) exact.Po
 	return p.At.Add(point.Turn(exact.Turn(p.Turn)))
 }
 
-// turned returns what World gives, which should have no error.
+// worldOf returns what World gives, which should have no error.
 func worldOf(t *testing.T, m machine.Machine, p pose.Pose, body int, point exact.Point) exact.Point {
 	t.Helper()
 	got, e := pose.World(m, p, body, point)
