@@ -256,6 +256,7 @@ func TestWalkErrors(t *testing.T) {
 		{"a greater push", calm, "0 0", nums("0 0 21/1000"), api.ErrRange},
 		{"a lesser push", calm, "0 0", nums("0 -21/1000 0"), api.ErrRange},
 		{"a greater push behind a step that is not good", calm, "9 -9", nums("0 21/1000"), api.ErrRange},
+		{"a lesser push behind a step that is not good", calm, "9 -9", nums("0 -21/1000"), api.ErrRange},
 		{"a state out of bounds", calm, "9 -9", nums("0"), api.ErrState},
 		{"a pressure out of its interval", calm, "0 1/5", nums("0"), api.ErrRange},
 		{"and a state out of bounds", calm, "9 0", nums("0"), api.ErrRange},
