@@ -91,23 +91,14 @@ func TestWalkerErrors(t *testing.T) {
 		w := walker(c.walker)
 		expectError(t, "CheckWalker of "+c.walker, gait.CheckWalker(w), c.want)
 		p := example()
-		p.Walker = w
-		p.Walker.Span = w.Span.Mul(num("1000"))
-		if w.Legs >= 2 && w.Legs <= 4 {
-			p.Start = ints("0 1 2 3")[:w.Legs]
-			expectError(t, "CheckProblem with "+c.walker, gait.CheckProblem(withSpan(p)), c.want)
-		} else {
-			expectError(t, "CheckProblem with "+c.walker, gait.CheckProblem(p), api.ErrArg)
+		p.Map = holds("0, 0 1, 0 2, 0 3") // no feet are apart in X
+		p.Walker, p.Start = w, ints("0 1 2 3")[:min(max(w.Legs, 0), 4)]
+		want := c.want
+		if w.Legs == 1 {
+			want = api.ErrArg // there is no word for one leg
 		}
+		expectError(t, "CheckProblem with "+c.walker, gait.CheckProblem(p), want)
 	}
-}
-
-// withSpan returns a problem in which Span, if it is 0, is 1.
-func withSpan(p gait.Problem) gait.Problem {
-	if p.Walker.Span.Sign() == 0 {
-		p.Walker.Span = num("1")
-	}
-	return p
 }
 
 // P8.6: the errors of Unroll, in their order.
