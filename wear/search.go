@@ -106,10 +106,9 @@ func (c counts) follow(choice set) counts {
 	return c
 }
 
-// option is counts that may be next, what the sample was, and the risk.
+// option is counts that may be next, and their risk.
 type option struct {
 	counts counts
-	choice set
 	risk   int
 }
 
@@ -130,7 +129,7 @@ func (s *search) options(at state) (l []option, end counts) {
 	for _, choice := range next.choices {
 		c := at.counts.follow(choice)
 		if c.isWithin(next.after) {
-			l = append(l, option{c, choice, risk(c, next.after)})
+			l = append(l, option{c, risk(c, next.after)})
 		} else {
 			end = next.tooHigh(c, end)
 		}
@@ -190,10 +189,8 @@ func (s *search) way(at state) (path []state, end counts, ok bool) {
 		if ok {
 			return append(path, at), counts{}, true
 		}
-		for i, n := range later {
-			if o.choice.has(i) {
-				end[i] = max(end[i], n-1)
-			}
+		for i, n := range later { // where a count has begun anew, n is 0
+			end[i] = max(end[i], n-1)
 		}
 	}
 	s.learn(at, end)
