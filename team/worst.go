@@ -76,14 +76,42 @@ type pattern struct {
 	coefficient exact.Q
 }
 
+// multiple returns a matrix times a number.
+func multiple(m exact.Mat, k exact.Q) exact.Mat {
+	var product exact.Mat
+	for _, row := range m {
+		var l []exact.Q
+		for _, q := range row {
+			l = append(l, q.Mul(k))
+		}
+		product = append(product, l)
+	}
+	return product
+}
+
+// powers returns the powers of a number from the n-th down to the 0th.
+func powers(q exact.Q, n int) []exact.Q {
+	l := []exact.Q{exact.Int(1)}
+	for range n {
+		l = append(l, l[len(l)-1].Mul(q))
+	}
+	slices.Reverse(l)
+	return l
+}
+
 // worst returns the first of the patterns with the greatest coefficient. (As
 // another round makes no coefficient greater, what begins with rounds whose
-// coefficient is not above the greatest one so far is left out.)
+// coefficient is not above the greatest one so far is left out. Each matrix is
+// taken times the denominator of the weight, as integers are multiplied faster;
+// the coefficients are compared as if this were done for the rounds to come,
+// too.)
 func worst(n Net, sets [][]int, rounds int) pattern {
+	under := n.Weight.Den()
+	factors := powers(under, rounds)
 	found := pattern{coefficient: exact.Int(-1)}
 	var extend func(lost [][]int, product exact.Mat)
 	extend = func(lost [][]int, product exact.Mat) {
-		c := coefficient(product)
+		c := coefficient(product).Mul(factors[len(lost)])
 		switch {
 		case c.Cmp(found.coefficient) <= 0:
 			return
@@ -92,11 +120,12 @@ func worst(n Net, sets [][]int, rounds int) pattern {
 			return
 		}
 		for _, links := range sets {
-			next, _ := exact.Mul(matrix(n, links), product)
+			next, _ := exact.Mul(multiple(matrix(n, links), under), product)
 			extend(append(lost, links), next)
 		}
 	}
 	extend(nil, identity(n.Size))
+	found.coefficient = over(found.coefficient, factors[0])
 	return found
 }
 
